@@ -181,3 +181,24 @@ func TestNamesAreNotKept(t *testing.T) {
 	has(t, d, "first", "", "x")
 	has(t, d, "second", "", "y")
 }
+
+// R3: nor does it keep the name by which a file that is there is called again.
+func TestNamesOfOldFilesAreNotKept(t *testing.T) {
+	for what, call := range map[string]func(d *disk.Disk, name string) api.Errno{
+		"Append":           func(d *disk.Disk, name string) api.Errno { return d.Append(name, []byte("y")) },
+		"Sync":             func(d *disk.Disk, name string) api.Errno { return d.Sync(name) },
+		"Cut":              func(d *disk.Disk, name string) api.Errno { return d.Cut(name, 1) },
+		"Rename":           func(d *disk.Disk, name string) api.Errno { return d.Rename("b", name) },
+		"Rename to itself": func(d *disk.Disk, name string) api.Errno { return d.Rename(name, name) },
+	} {
+		d := room(t, 100)
+		put(t, d, "first", "x")
+		put(t, d, "b", "z")
+		name := []byte("first")
+		want(t, what, call(d, unsafe.String(&name[0], len(name))), api.OK)
+		spoil(name)
+		if d.Size("first") == 0 || d.List()[len(d.List())-1] != "first" {
+			t.Errorf("%s: List %q, first has %d bytes", what, d.List(), d.Size("first"))
+		}
+	}
+}
