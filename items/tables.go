@@ -32,15 +32,17 @@ type recipe struct {
 	makes api.Slot
 }
 
-// recipeRows stand at their numbers.
-var recipeRows = [...]recipe{
-	{of: []api.Slot{{Item: api.Wood, N: 1}}, makes: api.Slot{Item: api.Plank, N: 4}},
-	{of: []api.Slot{{Item: api.Plank, N: 2}}, makes: api.Slot{Item: api.Stick, N: 4}},
-	{of: []api.Slot{{Item: api.Plank, N: 8}}, makes: api.Slot{Item: api.Chest, N: 1}},
-	{of: []api.Slot{{Item: api.Stick, N: 1}, {Item: api.Ore, N: 1}}, makes: api.Slot{Item: api.Torch, N: 4}},
-	{of: []api.Slot{{Item: api.Ore, N: 1}, {Item: api.Wood, N: 1}}, makes: api.Slot{Item: api.Ingot, N: 1}},
-	{of: []api.Slot{{Item: api.Stick, N: 2}, {Item: api.Ingot, N: 3}}, makes: api.Slot{Item: api.Pick, N: 1}},
-	{of: []api.Slot{{Item: api.Stone, N: 4}, {Item: api.Dirt, N: 1}}, makes: api.Slot{Item: api.Ore, N: 1}},
+// recipeRows stand at their numbers. They are made anew for each call, as the slice of a row goes on to whoever is told that row.
+func recipeRows() []recipe {
+	return []recipe{
+		{of: []api.Slot{{Item: api.Wood, N: 1}}, makes: api.Slot{Item: api.Plank, N: 4}},
+		{of: []api.Slot{{Item: api.Plank, N: 2}}, makes: api.Slot{Item: api.Stick, N: 4}},
+		{of: []api.Slot{{Item: api.Plank, N: 8}}, makes: api.Slot{Item: api.Chest, N: 1}},
+		{of: []api.Slot{{Item: api.Stick, N: 1}, {Item: api.Ore, N: 1}}, makes: api.Slot{Item: api.Torch, N: 4}},
+		{of: []api.Slot{{Item: api.Ore, N: 1}, {Item: api.Wood, N: 1}}, makes: api.Slot{Item: api.Ingot, N: 1}},
+		{of: []api.Slot{{Item: api.Stick, N: 2}, {Item: api.Ingot, N: 3}}, makes: api.Slot{Item: api.Pick, N: 1}},
+		{of: []api.Slot{{Item: api.Stone, N: 4}, {Item: api.Dirt, N: 1}}, makes: api.Slot{Item: api.Ore, N: 1}},
+	}
 }
 
 // tellItem tells the row of i to hear; of what is no item it tells nothing.
@@ -52,9 +54,10 @@ func tellItem(i api.Item, hear func(row item)) {
 
 // tellRecipe tells the row of the recipe n to hear, and answers whether there is one.
 func tellRecipe(n int, hear func(row recipe)) bool {
-	if n < 0 || n >= len(recipeRows) {
+	rows := recipeRows()
+	if n < 0 || n >= len(rows) {
 		return false
 	}
-	hear(recipeRows[n])
+	hear(rows[n])
 	return true
 }
